@@ -14,6 +14,9 @@ const (
 // wrongSign is what a reader panics with.
 const wrongSign = "sign that cannot stand here"
 
+// bodySigns are the signs that begin the statements of a body.
+const bodySigns = "+-*PC?"
+
 // A statement is one of a body; its text has those within it.
 type statement interface {
 	text() string
@@ -35,6 +38,9 @@ type choiceStatement struct {
 	second []statement
 }
 
+// A proceedStatement stands only in advice.
+type proceedStatement struct{}
+
 func (s changeStatement) text() string { return string([]byte{s.sign, s.digit}) }
 
 func (s printStatement) text() string { return "P" }
@@ -44,6 +50,8 @@ func (s callStatement) text() string { return string([]byte{'C', s.name}) }
 func (s choiceStatement) text() string {
 	return "?[" + bodyText(s.first) + "][" + bodyText(s.second) + "]"
 }
+
+func (s proceedStatement) text() string { return "K" }
 
 func bodyText(list []statement) string {
 	var b strings.Builder
@@ -56,7 +64,9 @@ func bodyText(list []statement) string {
 // A reader takes the signs of a body one by one. It panics at a sign that
 // cannot stand where it does, so that its steps need not hand failures on.
 type reader struct {
-	open []unfinishedBody
+	// signs are those that may begin a statement.
+	signs string
+	open  []unfinishedBody
 	// pending is the sign whose statement still lacks what must follow it, 0 if
 	// there is none; it is ']' between the two bodies of a choice.
 	pending rune
@@ -70,17 +80,22 @@ type unfinishedBody struct {
 	isSecond bool
 }
 
-// readBody is the face of the reader: what panics inside is no body.
-func readBody(text string) (list []statement, ok bool) {
+func readBody(text string) ([]statement, bool) {
+	return readStatements(text, MaxProgram, bodySigns)
+}
+
+// readStatements is the face of the reader: what panics inside is no text of
+// statements that begin with these signs.
+func readStatements(text string, most int, signs string) (list []statement, ok bool) {
 	defer func() {
 		if recover() != nil {
 			list, ok = nil, false
 		}
 	}()
-	if len(text) > MaxProgram {
+	if len(text) > most {
 		return nil, false
 	}
-	r := reader{open: []unfinishedBody{{}}}
+	r := reader{signs: signs, open: []unfinishedBody{{}}}
 	for _, sign := range text {
 		r.take(sign)
 	}
@@ -105,15 +120,17 @@ func (r *reader) take(sign rune) {
 
 // begin takes a sign in front of which all statements are complete.
 func (r *reader) begin(sign rune) {
-	switch sign {
-	case '+', '-', '*', 'C', '?':
-		r.pending = sign
-	case 'P':
-		r.add(printStatement{})
-	case ']':
+	switch {
+	case sign == ']':
 		r.closeBody()
-	default:
+	case !strings.ContainsRune(r.signs, sign):
 		panic(wrongSign)
+	case sign == 'P':
+		r.add(printStatement{})
+	case sign == 'K':
+		r.add(proceedStatement{})
+	default:
+		r.pending = sign
 	}
 }
 

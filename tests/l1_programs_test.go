@@ -430,20 +430,26 @@ func programText(names string, bodies []string) string {
 	return strings.Join(parts, ";")
 }
 
-func TestShortBodies(t *testing.T) {
+// eachShortText visits all texts of at most some signs.
+func eachShortText(signs string, most int, visit func(string)) {
 	texts := []string{""}
-	for range 6 {
-		var longer []string
-		for _, text := range texts {
-			if list, ok := impl.StatementsOf(text); ok != isBody(text) || ok && !slices.Equal(list, statementsIn(text)) {
-				t.Fatalf("StatementsOf(%q) = %q, %v", text, list, ok)
-			}
-			for _, sign := range "+1CaP?[]" {
-				longer = append(longer, text+string(sign))
-			}
+	for i := 0; i < len(texts); i++ {
+		visit(texts[i])
+		if len(texts[i]) == most {
+			continue
 		}
-		texts = longer
+		for k := range signs {
+			texts = append(texts, texts[i]+signs[k:k+1])
+		}
 	}
+}
+
+func TestShortBodies(t *testing.T) {
+	eachShortText("+1CaP?[]", 5, func(text string) {
+		if list, ok := impl.StatementsOf(text); ok != isBody(text) || ok && !slices.Equal(list, statementsIn(text)) {
+			t.Fatalf("StatementsOf(%q) = %q, %v", text, list, ok)
+		}
+	})
 }
 
 func TestChangedBodies(t *testing.T) {

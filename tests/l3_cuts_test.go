@@ -176,23 +176,15 @@ func tellCut(s string) wholeCut {
 }
 
 func TestShortCuts(t *testing.T) {
-	texts := []string{""}
 	cuts := 0
-	for range 6 {
-		var longer []string
-		for _, s := range texts {
-			if isCut(s) {
-				cuts++
-				checkCut(t, s, tellCut(s))
-			} else if impl.CutValid(s) || impl.ShowCut(s) != "" || impl.CutNames(s) != "" || impl.AsksActive(s) {
-				t.Fatalf("%q is no cut", s)
-			}
-			for _, sign := range "PNCWF!&|ab" {
-				longer = append(longer, s+string(sign))
-			}
+	eachShortText("PNCWF!&|ab", 5, func(s string) {
+		if isCut(s) {
+			cuts++
+			checkCut(t, s, tellCut(s))
+		} else if impl.CutValid(s) || impl.ShowCut(s) != "" || impl.CutNames(s) != "" || impl.AsksActive(s) {
+			t.Fatalf("%q is no cut", s)
 		}
-		texts = longer
-	}
+	})
 	if cuts < 400 {
 		t.Errorf("just %d cuts", cuts)
 	}
