@@ -295,52 +295,105 @@ func TestSameOutcome(t *testing.T) {
 	}
 }
 
-// runOfTexts runs a program as texts: what is still to be done is a text, in which `.` ends a procedure.
-func runOfTexts(names string, bodies []string, name string, value int) wholeRun {
-	todo, stack := bodies[strings.Index(names, name)], name
-	var points []string
-	out, end, steps, depth := "", "done", 0, 1
-	for todo != "" && end == "done" {
-		if todo[0] == '.' {
-			todo, stack = todo[1:], stack[:len(stack)-1]
+// A textRun is a run that only rewrites texts: what is still to be done is a text, in which `.` ends a procedure, `!` stands in front of a print or a call that is no join point, and `{` and a digit tell that advice is begun.
+type textRun struct {
+	names  string
+	bodies []string
+	// inPlace returns what stands in place of a join point.
+	inPlace func(s string, stack string) string
+	todo    string
+	stack   string
+	value   int
+	points  []string
+	begun   [10]int
+	out     string
+	end     string
+	steps   int
+	depth   int
+}
+
+func (r *textRun) bodyOf(name string) string { return r.bodies[strings.Index(r.names, name)] }
+
+// takeSign takes what is no step off the text, and reports whether there was such.
+func (r *textRun) takeSign() bool {
+	switch r.todo[0] {
+	case '.':
+		r.todo, r.stack = r.todo[1:], r.stack[:len(r.stack)-1]
+	case '{':
+		r.begun[r.todo[1]-'0']++
+		r.todo = r.todo[2:]
+	case 'P':
+		r.points = append(r.points, "print in "+r.stack)
+		r.todo = r.inPlace("P", r.stack) + r.todo[1:]
+	case 'C':
+		r.points = append(r.points, "call "+r.todo[1:2]+" in "+r.stack)
+		r.todo = r.inPlace(r.todo[:2], r.stack) + r.todo[2:]
+	default:
+		return false
+	}
+	return true
+}
+
+// takeStep takes a step off the text.
+func (r *textRun) takeStep() {
+	switch r.todo[0] {
+	case '!':
+		s := r.todo[1:3]
+		if s[0] == 'P' {
+			r.out += " " + strconv.Itoa(r.value)
+			r.todo = r.todo[2:]
+			return
+		}
+		if len(r.stack) == 20 {
+			r.end = "deep"
+			return
+		}
+		r.stack += s[1:]
+		r.depth = max(r.depth, len(r.stack))
+		r.todo = r.bodyOf(s[1:]) + "." + r.todo[3:]
+	case '?':
+		middle := closingOf(r.todo, 1)
+		end := closingOf(r.todo, middle+1)
+		chosen := r.todo[middle+2 : end]
+		if r.value > 0 {
+			chosen = r.todo[2:middle]
+		}
+		r.todo = chosen + r.todo[end+1:]
+	default:
+		r.value = changedBy(r.value, r.todo[:2])
+		r.todo = r.todo[2:]
+	}
+}
+
+// closingOf returns the index of the bracket that closes the one at i.
+func closingOf(s string, i int) int {
+	for open := 0; ; i++ {
+		open += strings.Count(s[i:i+1], "[") - strings.Count(s[i:i+1], "]")
+		if open == 0 {
+			return i
+		}
+	}
+}
+
+func (r *textRun) run(name string, value int) wholeRun {
+	r.todo, r.stack, r.value, r.end, r.depth = r.bodyOf(name)+". ", name, value, "done", 1
+	for r.todo != " " && r.end == "done" {
+		if r.takeSign() {
 			continue
 		}
-		at := statementEnd(todo, 0)
-		s, rest := todo[:at], todo[at:]
-		if s == "P" {
-			points = append(points, "print in "+stack)
-		} else if s[0] == 'C' {
-			points = append(points, "call "+s[1:]+" in "+stack)
-		}
-		if steps == 500 {
-			end = "long"
+		if r.steps == 500 {
+			r.end = "long"
 			break
 		}
-		steps++
-		switch s[0] {
-		case 'P':
-			out += " " + strconv.Itoa(value)
-		case 'C':
-			if len(stack) == 20 {
-				end = "deep"
-				break
-			}
-			stack += s[1:]
-			depth = max(depth, len(stack))
-			rest = bodies[strings.Index(names, s[1:])] + "." + rest
-		case '?':
-			middle := bodyEnd(s, 2)
-			if value > 0 {
-				rest = s[2:middle] + rest
-			} else {
-				rest = s[middle+2:at-1] + rest
-			}
-		default:
-			value = changedBy(value, s)
-		}
-		todo = rest
+		r.steps++
+		r.takeStep()
 	}
-	return wholeRun{strconv.Itoa(value) + ":" + out + " " + end + " " + strconv.Itoa(steps), strings.Join(points, ", "), depth}
+	return wholeRun{strconv.Itoa(r.value) + ":" + r.out + " " + r.end + " " + strconv.Itoa(r.steps), strings.Join(r.points, ", "), r.depth}
+}
+
+func runOfTexts(names string, bodies []string, name string, value int) wholeRun {
+	r := textRun{names: names, bodies: bodies, inPlace: func(s string, stack string) string { return "!" + s }}
+	return r.run(name, value)
 }
 
 // changedBy counts with magnitude and sign apart.
