@@ -190,24 +190,30 @@ func eachStatement(list []statement, visit func(statement)) {
 	}
 }
 
-func renameCalls(list []statement, from byte, to byte) []statement {
-	renamed := make([]statement, 0, len(list))
+// replaceEach returns statements with others in place of each one that is no
+// choice, those within choices included.
+func replaceEach(list []statement, replace func(statement) []statement) []statement {
+	replaced := make([]statement, 0, len(list))
 	for _, s := range list {
 		switch s := s.(type) {
-		case callStatement:
-			if s.name == from {
-				s.name = to
-			}
-			renamed = append(renamed, s)
 		case choiceStatement:
-			s.first = renameCalls(s.first, from, to)
-			s.second = renameCalls(s.second, from, to)
-			renamed = append(renamed, s)
+			s.first = replaceEach(s.first, replace)
+			s.second = replaceEach(s.second, replace)
+			replaced = append(replaced, s)
 		default:
-			renamed = append(renamed, s)
+			replaced = append(replaced, replace(s)...)
 		}
 	}
-	return renamed
+	return replaced
+}
+
+func renameCalls(list []statement, from byte, to byte) []statement {
+	return replaceEach(list, func(s statement) []statement {
+		if c, ok := s.(callStatement); ok && c.name == from {
+			s = callStatement{to}
+		}
+		return []statement{s}
+	})
 }
 
 // A letterSet has a bit for each letter, that of 'a' counting least.
