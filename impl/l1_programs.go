@@ -316,6 +316,15 @@ func (p program) text() string {
 	return strings.Join(parts, ";")
 }
 
+// fittingText returns the text of a program, if it is not too long for one.
+func (p program) fittingText() (string, bool) {
+	text := p.text()
+	if len(text) > MaxProgram {
+		return "", false
+	}
+	return text, true
+}
+
 // find returns the index at which a procedure stands or would be put.
 func (p program) find(name byte) (int, bool) {
 	return slices.BinarySearchFunc(p, name, func(each procedure, name byte) int {
